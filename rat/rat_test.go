@@ -605,21 +605,44 @@ func tens(limbs int) int {
 // ten is the text of 10^k.
 func ten(k int) string { return "1" + strings.Repeat("0", k) }
 
-// Texts of quotients that are as long as may be, and of ones that are too long.
+// Texts of quotients that are as long as may be, and of ones whose numbers may be, but are too long together.
 func TestParseLong(t *testing.T) {
-	top, half, over := tens(most-1), tens(most/2), tens(api.MaxLong)+1
+	top, half, last := tens(most-1), tens(most/2), tens(api.MaxLong)
 	odd := "1" + strings.Repeat("0", half-1) + "3"
 	for _, s := range []string{ten(top), "-" + ten(top), "-7/" + ten(top), ten(half) + "/" + odd} {
 		x, e := rat.Parse(s)
 		v, _ := new(big.Rat).SetString(s)
 		told(t, x, e, quotient(v), "Parse of ", brief(s))
 	}
-	for _, s := range []string{ten(top + 1), "-" + ten(top+1), ten(over - 1), ten(top) + "/4294967311", "-4294967311/" + ten(top), ten(half+1) + "/" + odd, ten(over), "-" + ten(over), "1/" + ten(over), ten(over) + "/7", strings.Repeat("9", over+1000)} {
+	for _, s := range []string{ten(top + 1), "-" + ten(top+1), ten(last), "-" + ten(last), "1/" + ten(last), ten(last) + "/7", ten(top) + "/4294967311", "-4294967311/" + ten(top), ten(half+1) + "/" + odd} {
 		x, e := rat.Parse(s)
 		refused(t, x, e, api.ErrTooLarge, "Parse of ", brief(s))
 	}
-	// What is no text is ErrForm, however long it is.
-	for _, s := range []string{ten(top) + "/5", ten(top) + "/" + ten(top), ten(half+1) + "/" + ten(half), "0/" + ten(top), "0" + ten(over), ten(over) + "/0", ten(over) + "/1", ten(over) + "/-3", ten(over) + "/03", "-0/" + ten(over), ten(over) + " ", ten(over) + "/"} {
+	// What is no text, or not in lowest terms, is ErrForm, too long or not.
+	for _, s := range []string{ten(top) + "/5", ten(top) + "/" + ten(top), ten(half+1) + "/" + ten(half), "0/" + ten(top), ten(last) + "/2", ten(last) + "/" + ten(last), "0/" + ten(last), "0" + ten(last), ten(last) + "/0", ten(last) + "/1", ten(last) + "/-3", ten(last) + "/03", "-0/" + ten(last), ten(last) + " ", ten(last) + "/"} {
+		x, e := rat.Parse(s)
+		refused(t, x, e, api.ErrForm, "Parse of ", brief(s))
+	}
+}
+
+// Digits of more limbs than there may be are no whole number's text, so none of a quotient, in lowest terms or not.
+func TestParseNoNumber(t *testing.T) {
+	over, end := tens(api.MaxLong)+1, new(big.Int).Lsh(big.NewInt(1), 32*api.MaxLong)
+	greatest := new(big.Int).Sub(end, big.NewInt(1)).String()
+	for _, s := range []string{greatest, "-" + greatest, "1/" + greatest, greatest + "/2"} {
+		x, e := rat.Parse(s)
+		refused(t, x, e, api.ErrTooLarge, "Parse of ", brief(s))
+	}
+	var l []string
+	for _, long := range []string{ten(over), end.String(), ten(over + 10000), strings.Repeat("9", over+10000)} {
+		l = append(l, long, "-"+long, "1/"+long, long+"/7", "0/"+long)
+	}
+	long := ten(over + 10000)
+	// In lowest terms, not in them, and no text but for its length.
+	l = append(l, "-7/"+long, "-"+long+"/3", long+"/"+long+"7", long+"/"+greatest, greatest+"/"+long)
+	l = append(l, "4/"+long, "-5/"+long, long+"/2", "-"+long+"/5", long+"/"+long, long+"/"+long+"0", long+"0/"+long)
+	l = append(l, "0"+long, long+"/0", long+"/1", long+"/-3", long+"/03", "-0/"+long, long+" ", long+"/", "/"+long, "x/"+long)
+	for _, s := range l {
 		x, e := rat.Parse(s)
 		refused(t, x, e, api.ErrForm, "Parse of ", brief(s))
 	}
