@@ -360,8 +360,8 @@ func TestP16_1Kinds(t *testing.T) {
 		equal(t, truth(t, api.Whole, div(3, 1, 0, 2), ints(n)), (2*n+1)%3 == 0, "3 divides twice ", n, ", and 1")
 		equal(t, truth(t, api.Whole, div(1, 1, 0, 2), ints(n)), true, "1 divides twice ", n, ", and 1")
 		equal(t, truth(t, api.Whole, div(5, n), nil), n%5 == 0, "5 divides the number ", n)
-		for in, f := range map[uint8]formula{api.Real: le(n), api.Whole: le(n)} {
-			equal(t, truth(t, in, f, nil), n <= 0, n, " is 0, or less")
+		for _, in := range logics() {
+			equal(t, truth(t, in, le(n), nil), n <= 0, n, " is 0, or less")
 			equal(t, truth(t, in, lt(n), nil), n < 0, n, " is less than 0")
 			equal(t, truth(t, in, eq(n), nil), n == 0, n, " is 0")
 		}
