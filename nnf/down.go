@@ -5,6 +5,7 @@ import (
 
 	"alidade/api"
 	"alidade/atom"
+	"alidade/budget"
 	"alidade/whole"
 )
 
@@ -17,14 +18,21 @@ type node struct {
 	long   bool     // of Is: a number of the atom would be longer than one may be
 }
 
+// looker looks at atoms, as long as there are steps for them. Each one that stays open will be paid by one step or more, itself or its denials: so where a copy of the meter, which is told just one for each, has none any more, the meter will have none either.
+type looker struct {
+	by    uint8
+	meter *budget.Meter // the copy
+	short bool          // there was no step for one, so the others are not looked at
+}
+
 // down is what a formula that may be, and has no quantifiers, says, or, denied, what it does not.
-func down(by uint8, f api.Formula, denied bool) node {
+func (l *looker) down(f api.Formula, denied bool) node {
 	op := f.Op
 	switch f.Op {
 	case api.Is:
-		return leaf(by, f.Atom, denied)
+		return l.look(f.Atom, denied)
 	case api.Not:
-		return down(by, f.Kids[0], !denied)
+		return l.down(f.Kids[0], !denied)
 	case api.True:
 		// And of nothing is just that, Or of nothing the other one.
 		op = api.And
@@ -36,9 +44,19 @@ func down(by uint8, f api.Formula, denied bool) node {
 	}
 	var kids []node
 	for _, kid := range f.Kids {
-		kids = append(kids, down(by, kid, denied))
+		kids = append(kids, l.down(kid, denied))
 	}
 	return node{op: settled(op, kids), kids: kids}
+}
+
+// look is an atom, or, denied, what it is not, if there is a step for it: else it is none that says anything.
+func (l *looker) look(a api.Atom, denied bool) node {
+	if l.short {
+		return node{op: api.Is}
+	}
+	n := leaf(l.by, a, denied)
+	l.short = !isSettled(n.op) && l.meter.Pay(api.Atom{}) != api.OK
+	return n
 }
 
 // leaf is an atom, or, denied, what it is not.
@@ -69,8 +87,8 @@ func settled(op uint8, kids []node) uint8 {
 	return op
 }
 
-// isSettled tells whether a node is true, or false, whatever values are.
-func (n node) isSettled() bool { return n.op == api.True || n.op == api.False }
+// isSettled tells whether an Op is true, or false, whatever values are.
+func isSettled(op uint8) bool { return op == api.True || op == api.False }
 
 // otherOf is the one of two that another one is not.
 func otherOf(op, one, two uint8) uint8 {

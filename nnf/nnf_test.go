@@ -4,6 +4,7 @@ import (
 	"fmt"
 	"math"
 	"math/rand"
+	"runtime"
 	"slices"
 	"testing"
 
@@ -1025,6 +1026,99 @@ func TestP19_6Budget(t *testing.T) {
 				equal(t, e, api.ErrBudget, "three times, of ", brief(f))
 			}
 		})
+	}
+}
+
+// S7, P19.1: no more steps are done than the budget has. What is done is told by the memory that is taken up on the way: with few steps by few steps' share of what is taken up with enough of them.
+func TestFewStepsDone(t *testing.T) {
+	var parts []api.Part
+	for v := range 300 {
+		parts = append(parts, api.Part{Var: v, Coef: whole.Of(v%7 + 1)})
+	}
+	saying := func(kind uint8, mod int) func(k int) formula {
+		return func(k int) formula {
+			return leaf(api.Atom{Kind: kind, Term: api.Term{Parts: parts, Add: whole.Of(k)}, Mod: whole.Of(mod)})
+		}
+	}
+	taken := func(in uint8, f formula, steps int) (int, api.Errno) {
+		b := budget.Widest()
+		b.Steps = steps
+		m := metered(b)
+		var ahead, behind runtime.MemStats
+		runtime.ReadMemStats(&ahead)
+		_, e := nnf.Of(in, f, m)
+		runtime.ReadMemStats(&behind)
+		return int(behind.TotalAlloc - ahead.TotalAlloc), e
+	}
+	divides := saying(api.Div, 1000)
+	for k, c := range []struct {
+		in    uint8
+		f     formula
+		steps int
+	}{
+		{api.Whole, not(divides(0)), 999}, {api.Whole, or(x(0), not(divides(3)), not(divides(4))), 1999}, {api.Whole, not(and(divides(3), or(divides(4), x(0)))), 1999}, {api.Whole, and(not(divides(0)), no()), 999},
+		{api.Whole, and(each(1000, saying(api.Eq, 0))...), 1000}, {api.Whole, not(and(each(1000, saying(api.Eq, 0))...)), 2000}, {api.Whole, or(append([]formula{yes()}, each(1000, saying(api.Lt, 0))...)...), 1000}, {api.Whole, and(each(1000, divides)...), 1000},
+		{api.Real, or(each(1000, saying(api.Eq, 0))...), 1000}, {api.Real, not(or(each(1000, saying(api.Eq, 0))...)), 2000}, {api.Real, and(each(1000, func(k int) formula { return not(saying(api.Eq, 0)(k)) })...), 2000},
+	} {
+		all, e := taken(c.in, c.f, c.steps)
+		equal(t, e, api.OK, "with enough steps, case ", k)
+		// What the formula itself takes up, as it is looked at for whether it may be, is no step's.
+		none, e := taken(c.in, c.f, 0)
+		equal(t, e, api.ErrBudget, "without steps, case ", k)
+		if none > all*2/3 {
+			t.Errorf("case %d: without steps %d bytes are taken up, with enough of them %d", k, none, all)
+		}
+		for _, steps := range []int{1, 2, 10, 100} {
+			some, e := taken(c.in, c.f, steps)
+			equal(t, e, api.ErrBudget, "with ", steps, " steps, case ", k)
+			if most := none + 3*(steps+2)*(all-none)/c.steps; some > most {
+				t.Errorf("case %d: with %d steps %d bytes are taken up, that is more than %d", k, steps, some, most)
+			}
+		}
+	}
+}
+
+// S7: what few steps are not enough for says so, whether it is settled behind, or grows too large, or is neither.
+func TestFewSteps(t *testing.T) {
+	many := mostNodes/3 + 1
+	mod := func(n int) formula { return not(div(n, 0, 0, 1)) }
+	for k, c := range []struct {
+		in  uint8
+		f   formula
+		few []int
+	}{
+		// Steps for each atom, but not for all denials; for all denials of those ahead, but not for all atoms.
+		{api.Whole, and(mod(3000), mod(3000), no()), []int{0, 1, 2, 3, 2999, 3000, 4100, 5997}}, {api.Whole, or(yes(), mod(3000), x(0), mod(3000)), []int{0, 1, 2, 3, 4, 2999, 3000, 3001, 5998}},
+		// What settles is an atom that is behind those which there are steps for.
+		{api.Whole, not(or(append(append(each(many, zero), each(1400, x)...), le(-1))...)), []int{0, 1, many, many + 1, 2*many - 1, 2 * many, 2*many + 1, many + 1399, many + 1400, many + 1401, 2*many + 1399}},
+		{api.Real, not(or(append(append([]formula{yes()}, each(many, zero)...), each(1400, x)...)...)), []int{0, 1, many, 2*many - 1, 2 * many, many + 1399, many + 1400, 2*many + 1399}},
+		{api.Real, and(append(each(1000, zero), or(x(0), not(and(zero(1), zero(2)))))...), []int{0, 1, 999, 1000, 1001, 1002, 1003, 1004}},
+	} {
+		var spent api.Budget
+		want := model(c.in, c.f, &spent)
+		for _, steps := range c.few {
+			b := budget.Widest()
+			b.Steps = steps
+			m := metered(b)
+			refuses(t, api.ErrBudget, c.in, c.f, m, "case ", k, ", with ", steps, " steps")
+			part, most, is := budget.Part(m.Why())
+			equal(t, is && part == "steps" && most == steps, true, "why, case ", k, ", with ", steps, " steps")
+			equal(t, m.Spent().Steps, steps, "what was spent, case ", k, ", with ", steps, " steps")
+		}
+		b := spent
+		m := metered(b)
+		g, e := nnf.Of(c.in, c.f, m)
+		equal(t, e, api.OK, "with what is spent, case ", k)
+		tells(t, g, want, "with what is spent, case ", k)
+		equal(t, m.Spent(), spent, "what is spent, case ", k)
+	}
+	// What is too large is so with whatever steps.
+	for k, f := range []formula{and(mod(3000), mod(3000)), or(x(0), mod(3000), mod(3000)), not(or(append(each(many, zero), each(1400, x)...)...)), and(mod(mostNodes+1), no())} {
+		for _, steps := range []int{0, 1, 2, 3, 2999, 3000, many + 1399, many + 1400, 2*many - 1, 2 * many, 5998, 5999, 100000} {
+			b := budget.Widest()
+			b.Steps = steps
+			refuses(t, api.ErrBudget, api.Whole, f, metered(b), "too large, case ", k, ", with ", steps, " steps")
+		}
 	}
 }
 

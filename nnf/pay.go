@@ -1,7 +1,9 @@
 package nnf
 
 import (
+	"iter"
 	"math"
+	"slices"
 
 	"alidade/api"
 	"alidade/atom"
@@ -13,6 +15,7 @@ import (
 type payer struct {
 	by    uint8
 	meter *budget.Meter
+	short bool // the meter has not enough steps, so it will refuse, and nothing is put together
 }
 
 // claim is what becomes of a node, and how many nodes that has.
@@ -26,17 +29,22 @@ func (p payer) become(n node) (claim, api.Errno) {
 	if n.op == api.Is {
 		return p.becomeAtom(n)
 	}
+	return p.together(n.op, slices.Values(n.kids))
+}
+
+// together is what becomes of nodes with an Op ahead of them, or of what they settle. Each of them is asked for when those ahead of it are paid.
+func (p payer) together(op uint8, nodes iter.Seq[node]) (claim, api.Errno) {
 	var kids []api.Formula
 	size := 1
-	for _, kid := range n.kids {
-		c, e := p.become(kid)
+	for n := range nodes {
+		c, e := p.become(n)
 		if e != api.OK {
 			return claim{}, e
 		}
 		switch {
-		case n.isSettled() || kid.isSettled():
+		case p.short || isSettled(op) || isSettled(n.op):
 			continue
-		case c.said.Op == n.op:
+		case c.said.Op == op:
 			kids = append(kids, c.said.Kids...)
 			size += c.size - 1
 		default:
@@ -50,7 +58,7 @@ func (p payer) become(n node) (claim, api.Errno) {
 	if len(kids) == 1 {
 		return claim{kids[0], size - 1}, api.OK
 	}
-	return claim{api.Formula{Op: n.op, Kids: kids}, size}, api.OK
+	return claim{api.Formula{Op: op, Kids: kids}, size}, api.OK
 }
 
 // becomeAtom is what becomes of an atom, or of what it is not.
@@ -77,14 +85,21 @@ func (p payer) becomeDenials(a api.Atom) (claim, api.Errno) {
 	if many >= api.MaxNodes {
 		return claim{}, api.ErrBudget
 	}
-	either := node{op: api.Or}
-	for k := range many {
-		d, _ := atom.Deny(p.by, a, k)
-		kid := leaf(p.by, d, false)
-		kid.long = kid.long || isLost(d, whole.Abs(a.Term.Add), 1)
-		either.kids = append(either.kids, kid)
+	return p.together(api.Or, p.each(a, many))
+}
+
+// each tells a canonical atom's denials. One is made only when those ahead of it are paid, as there may be no step for it.
+func (p payer) each(a api.Atom, many int) iter.Seq[node] {
+	return func(yield func(node) bool) {
+		for k := range many {
+			d, _ := atom.Deny(p.by, a, k)
+			n := leaf(p.by, d, false)
+			n.long = n.long || isLost(d, whole.Abs(a.Term.Add), 1)
+			if !yield(n) {
+				return
+			}
+		}
 	}
-	return p.become(either)
 }
 
 // denials is how many denials an atom has, or the greatest int, if that is less.
